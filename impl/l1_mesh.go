@@ -72,6 +72,10 @@ func (m mesh) hasPoint(i int) bool {
 	return i >= 0 && i < m.size()
 }
 
+func (m mesh) areNeighbours(i, j int) bool {
+	return m.hasPoint(i) && m.hasPoint(j) && m.spotAt(i).isBeside(m.spotAt(j))
+}
+
 // spotAt passes the rows of equal a, each of which has one point more than the row before it.
 func (m mesh) spotAt(i int) spot {
 	row := 0
@@ -269,7 +273,7 @@ func CellsOf(n int) ([][]int, bool) {
 // CellsWith returns the numbers of all cells that have two neighbours i and j, increasing: one or two.
 func CellsWith(n int, i int, j int) ([]int, bool) {
 	m, ok := meshOf(n)
-	if !ok || !m.hasPoint(i) || !m.hasPoint(j) || !m.spotAt(i).isBeside(m.spotAt(j)) {
+	if !ok || !m.areNeighbours(i, j) {
 		return nil, false
 	}
 	var found []int

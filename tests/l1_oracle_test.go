@@ -8,7 +8,16 @@ import (
 	"strings"
 )
 
+// Points and cells are kept from call to call, as finding them takes long; nobody may change them.
+var (
+	pointsFound = map[int][][]int{}
+	cellsFound  = map[int][][]int{}
+)
+
 func oraclePoints(n int) [][]int {
+	if points, found := pointsFound[n]; found {
+		return points
+	}
 	var points [][]int
 	for a := n; a >= 0; a-- {
 		for b := n; b >= 0; b-- {
@@ -19,6 +28,7 @@ func oraclePoints(n int) [][]int {
 			}
 		}
 	}
+	pointsFound[n] = points
 	return points
 }
 
@@ -44,6 +54,9 @@ func oracleNeighbours(n, i int) []int {
 }
 
 func oracleCells(n int) [][]int {
+	if cells, found := cellsFound[n]; found {
+		return cells
+	}
 	points := oraclePoints(n)
 	var cells [][]int
 	for i := range points {
@@ -55,6 +68,7 @@ func oracleCells(n int) [][]int {
 			}
 		}
 	}
+	cellsFound[n] = cells
 	return cells
 }
 

@@ -1,0 +1,248 @@
+package tests
+
+// Promise 11: every function accepts all arguments without panicking and modifies none of them.
+
+import (
+	"fmt"
+	"math"
+	"slices"
+	"testing"
+
+	"loop.example/g01160/impl"
+)
+
+// arguments are what any function on triangles takes; each one takes some of them.
+type arguments struct {
+	n, i, j int
+	list    []int
+	text    string
+}
+
+// totalFunction has the results of a call, whether it succeeded last, and whether it has to.
+type totalFunction struct {
+	name     string
+	call     func(a arguments) []any
+	succeeds func(a arguments) bool
+}
+
+func totalFunctions() []totalFunction {
+	return slices.Concat(functionsOfChapter1(), functionsOfChapter2())
+}
+
+func isSide(n int) bool { return n >= 1 && n <= 8 }
+
+func isPointOf(n, i int) bool { return isSide(n) && i >= 0 && i < (n+1)*(n+2)/2 }
+
+func isCellOf(n, cell int) bool { return isSide(n) && cell >= 0 && cell < n*n }
+
+func areNeighboursOf(n, i, j int) bool {
+	return isPointOf(n, i) && isPointOf(n, j) && slices.Contains(oracleNeighbours(n, i), j)
+}
+
+func areLabelsOf(a arguments) bool {
+	return isSide(a.n) && len(a.list) == (a.n+1)*(a.n+2)/2 && slices.Min(a.list) >= 0 && slices.Max(a.list) <= 2
+}
+
+func hasSide(a arguments) bool { return isSide(a.n) }
+
+func hasPoint(a arguments) bool { return isPointOf(a.n, a.i) }
+
+func pair[A, B any](x A, y B) []any { return []any{x, y} }
+
+func triple[A, B, C any](x A, y B, z C) []any { return []any{x, y, z} }
+
+// manyArguments has each side with its edges, good and bad, and with lists of all kinds.
+func manyArguments() []arguments {
+	texts := []string{"2:0/02/112", "1:1/11", "1:0/13", "", "\xff\xfe", "0:", "9:0/00"}
+	var all []arguments
+	for n := -2; n <= 11; n++ {
+		size := (n + 1) * (n + 2) / 2
+		lists := [][]int{nil, {}, {n, 0, 0}, {0, 0, n}, {1, n - 1, 0}, {n + 1, -1, 0}, {math.MaxInt, math.MaxInt, n + 2}}
+		if isSide(n) {
+			lists = append(lists, badLists(n)...)
+			for _, labels := range slices.Concat(sampleLabels(n)[:8], doorLabels(n)) {
+				lists = append(lists, labels, labels[:size-1])
+			}
+		}
+		numbers := []int{0, 1, 2, size / 2, size - 1, size, -1, n*n - 1, n * n, math.MaxInt, math.MinInt}
+		state := uint32(n + 100)
+		next := func() int {
+			state = state*1664525 + 1013904223
+			return numbers[int(state>>16)%len(numbers)]
+		}
+		for k := range 500 {
+			all = append(all, arguments{n, next(), next(), lists[k%len(lists)], texts[k%len(texts)]})
+		}
+	}
+	for _, n := range badSides {
+		for _, list := range [][]int{nil, {0, 1, 2}, {n, 0, 0}} {
+			all = append(all, arguments{n, 0, 1, list, ""}, arguments{n, n, n, list, ""})
+		}
+	}
+	return all
+}
+
+// resultsOf fails the test at a panic instead of ending all tests.
+func resultsOf(t *testing.T, f totalFunction, a arguments) (results []any) {
+	t.Helper()
+	defer func() {
+		if r := recover(); r != nil {
+			t.Errorf("%s of %v panics: %v", f.name, a, r)
+		}
+	}()
+	return f.call(a)
+}
+
+func TestFunctionsAreTotal(t *testing.T) {
+	for _, f := range totalFunctions() {
+		failed, succeeded := 0, 0
+		for _, a := range manyArguments() {
+			results := resultsOf(t, f, a)
+			if results == nil {
+				continue
+			}
+			last := len(results) - 1
+			if f.succeeds(a) {
+				succeeded++
+				if results[last] != true {
+					t.Errorf("%s of %v fails", f.name, a)
+				}
+				continue
+			}
+			failed++
+			wantFailure(t, fmt.Sprintf("%s of %v", f.name, a), results[last].(bool), results[:last]...)
+		}
+		if failed == 0 || succeeded == 0 {
+			t.Errorf("%s: %d calls had to fail, %d to succeed", f.name, failed, succeeded)
+		}
+	}
+}
+
+// spacious is the list with labels behind its end, which nobody may look at.
+func spacious(list []int) (short, memory []int) {
+	memory = append(slices.Clone(list), 1, 0, 2, 1)
+	if list == nil {
+		return nil, memory
+	}
+	return memory[:len(list)], memory
+}
+
+func TestSpareCapacityIsNotRead(t *testing.T) {
+	for _, f := range totalFunctions() {
+		for _, a := range manyArguments() {
+			clipped, wide := a, a
+			clipped.list = slices.Clip(slices.Clone(a.list))
+			wide.list, _ = spacious(a.list)
+			if fmt.Sprint(resultsOf(t, f, clipped)...) != fmt.Sprint(resultsOf(t, f, wide)...) {
+				t.Fatalf("%s of %v reads what is behind the end of its argument", f.name, a)
+			}
+		}
+	}
+}
+
+func TestArgumentsAreKept(t *testing.T) {
+	for _, f := range totalFunctions() {
+		for _, a := range manyArguments() {
+			list, memory := spacious(a.list)
+			before := slices.Clone(memory)
+			a.list = list
+			results := resultsOf(t, f, a)
+			if !slices.Equal(memory, before) {
+				t.Fatalf("%s modifies its argument", f.name)
+			}
+			for _, r := range results {
+				overwrite(r)
+			}
+			if !slices.Equal(memory, before) {
+				t.Fatalf("%s returns memory of its argument", f.name)
+			}
+		}
+	}
+}
+
+// overwrite fills a result with numbers that none has, its spare capacity too.
+func overwrite(result any) {
+	switch r := result.(type) {
+	case []int:
+		r = r[:cap(r)]
+		for k := range r {
+			r[k] = 99
+		}
+	case [][]int:
+		r = r[:cap(r)]
+		for k := range r {
+			overwrite(r[k])
+			r[k] = nil
+		}
+	}
+}
+
+func TestResultsAreNew(t *testing.T) {
+	for _, f := range totalFunctions() {
+		for _, a := range manyArguments() {
+			expected := fmt.Sprint(resultsOf(t, f, a)...)
+			first, second := resultsOf(t, f, a), resultsOf(t, f, a)
+			for _, r := range first {
+				overwrite(r)
+			}
+			if fmt.Sprint(second...) != expected {
+				t.Fatalf("%s: two results share memory", f.name)
+			}
+			if fmt.Sprint(resultsOf(t, f, a)...) != expected {
+				t.Fatalf("%s gives out memory that it uses again", f.name)
+			}
+		}
+	}
+}
+
+func TestListsOfAResultShareNoMemory(t *testing.T) {
+	checked := 0
+	for _, f := range totalFunctions() {
+		for _, a := range manyArguments() {
+			for _, r := range resultsOf(t, f, a) {
+				if lists, ok := r.([][]int); ok && len(lists) > 1 {
+					checked++
+					checkSeparate(t, f.name, lists)
+				}
+			}
+		}
+	}
+	if checked == 0 {
+		t.Error("no result has two lists")
+	}
+}
+
+// checkSeparate marks each list with its own number: shared memory would keep the last mark only.
+func checkSeparate(t *testing.T, what string, lists [][]int) {
+	t.Helper()
+	for k, list := range lists {
+		list = list[:cap(list)]
+		for i := range list {
+			list[i] = k
+		}
+	}
+	for k, list := range lists {
+		list = list[:cap(list)]
+		if len(list) > 0 && (slices.Min(list) != k || slices.Max(list) != k) {
+			t.Fatalf("%s: the list %d of its result shares memory with another one", what, k)
+		}
+	}
+}
+
+func TestShortLabelsFail(t *testing.T) {
+	for n := 1; n <= impl.MaxSide; n++ {
+		whole := sampleLabels(n)[4]
+		short := whole[:len(whole)-1]
+		are, ok := impl.AreLabels(n, short)
+		want(t, "AreLabels", are, ok, false)
+		turned, ok := impl.TurnLabels(n, short)
+		wantFailure(t, "TurnLabels", ok, turned)
+		text, ok := impl.LabelsText(n, short)
+		wantFailure(t, "LabelsText", ok, text)
+		degree, ok := impl.DegreeOf(n, short)
+		wantFailure(t, "DegreeOf", ok, degree)
+	}
+	point := []int{1, 1, 0}
+	index, ok := impl.IndexOfPoint(2, point[:2])
+	wantFailure(t, "IndexOfPoint", ok, index)
+}
