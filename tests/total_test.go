@@ -11,7 +11,7 @@ import (
 	"loop.example/g01160/impl"
 )
 
-// arguments are what any function on triangles takes; each one takes some of them.
+// arguments are what any function takes; each one takes some of them.
 type arguments struct {
 	n, i, j int
 	list    []int
@@ -26,7 +26,7 @@ type totalFunction struct {
 }
 
 func totalFunctions() []totalFunction {
-	return slices.Concat(functionsOfChapter1(), functionsOfChapter2())
+	return slices.Concat(functionsOfChapter1(), functionsOfChapter2(), functionsOfChapter3())
 }
 
 func isSide(n int) bool { return n >= 1 && n <= 8 }
@@ -51,8 +51,14 @@ func pair[A, B any](x A, y B) []any { return []any{x, y} }
 
 func triple[A, B, C any](x A, y B, z C) []any { return []any{x, y, z} }
 
-// manyArguments has each side with its edges, good and bad, and with lists of all kinds.
+func quadruple[A, B, C, D any](w A, x B, y C, z D) []any { return []any{w, x, y, z} }
+
 func manyArguments() []arguments {
+	return slices.Concat(triangleArguments(), boardArguments())
+}
+
+// triangleArguments has each side with its edges, good and bad, and with lists of all kinds.
+func triangleArguments() []arguments {
 	texts := []string{"2:0/02/112", "1:1/11", "1:0/13", "", "\xff\xfe", "0:", "9:0/00"}
 	var all []arguments
 	for n := -2; n <= 11; n++ {
