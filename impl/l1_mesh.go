@@ -141,6 +141,14 @@ func (m mesh) border() []int {
 	return border
 }
 
+func cellLists(cells []trio) [][]int {
+	lists := make([][]int, len(cells))
+	for k, c := range cells {
+		lists[k] = slices.Clone(c[:])
+	}
+	return lists
+}
+
 func (m mesh) withLabels(labels []int) (labelled, bool) {
 	if len(labels) != m.size() {
 		return labelled{}, false
@@ -263,11 +271,7 @@ func CellsOf(n int) ([][]int, bool) {
 	if !ok {
 		return nil, false
 	}
-	var lists [][]int
-	for _, c := range m.cells() {
-		lists = append(lists, slices.Clone(c[:]))
-	}
-	return lists, true
+	return cellLists(m.cells()), true
 }
 
 // CellsWith returns the numbers of all cells that have two neighbours i and j, increasing: one or two.

@@ -26,7 +26,7 @@ type totalFunction struct {
 }
 
 func totalFunctions() []totalFunction {
-	return slices.Concat(functionsOfChapter1(), functionsOfChapter2(), functionsOfChapter3())
+	return slices.Concat(functionsOfChapter1(), functionsOfChapter2(), functionsOfChapter3(), functionsOfChapter4())
 }
 
 func isSide(n int) bool { return n >= 1 && n <= 8 }
@@ -54,7 +54,7 @@ func triple[A, B, C any](x A, y B, z C) []any { return []any{x, y, z} }
 func quadruple[A, B, C, D any](w A, x B, y C, z D) []any { return []any{w, x, y, z} }
 
 func manyArguments() []arguments {
-	return slices.Concat(triangleArguments(), boardArguments())
+	return slices.Concat(triangleArguments(), boardArguments(), squareArguments())
 }
 
 // triangleArguments has each side with its edges, good and bad, and with lists of all kinds.
@@ -100,9 +100,10 @@ func resultsOf(t *testing.T, f totalFunction, a arguments) (results []any) {
 }
 
 func TestFunctionsAreTotal(t *testing.T) {
+	all := manyArguments()
 	for _, f := range totalFunctions() {
 		failed, succeeded := 0, 0
-		for _, a := range manyArguments() {
+		for _, a := range all {
 			results := resultsOf(t, f, a)
 			if results == nil {
 				continue
@@ -134,8 +135,9 @@ func spacious(list []int) (short, memory []int) {
 }
 
 func TestSpareCapacityIsNotRead(t *testing.T) {
+	all := manyArguments()
 	for _, f := range totalFunctions() {
-		for _, a := range manyArguments() {
+		for _, a := range all {
 			clipped, wide := a, a
 			clipped.list = slices.Clip(slices.Clone(a.list))
 			wide.list, _ = spacious(a.list)
@@ -147,8 +149,9 @@ func TestSpareCapacityIsNotRead(t *testing.T) {
 }
 
 func TestArgumentsAreKept(t *testing.T) {
+	all := manyArguments()
 	for _, f := range totalFunctions() {
-		for _, a := range manyArguments() {
+		for _, a := range all {
 			list, memory := spacious(a.list)
 			before := slices.Clone(memory)
 			a.list = list
@@ -184,8 +187,9 @@ func overwrite(result any) {
 }
 
 func TestResultsAreNew(t *testing.T) {
+	all := manyArguments()
 	for _, f := range totalFunctions() {
-		for _, a := range manyArguments() {
+		for _, a := range all {
 			expected := fmt.Sprint(resultsOf(t, f, a)...)
 			first, second := resultsOf(t, f, a), resultsOf(t, f, a)
 			for _, r := range first {
@@ -203,19 +207,32 @@ func TestResultsAreNew(t *testing.T) {
 
 func TestListsOfAResultShareNoMemory(t *testing.T) {
 	checked := 0
+	all := manyArguments()
 	for _, f := range totalFunctions() {
-		for _, a := range manyArguments() {
-			for _, r := range resultsOf(t, f, a) {
-				if lists, ok := r.([][]int); ok && len(lists) > 1 {
-					checked++
-					checkSeparate(t, f.name, lists)
-				}
+		for _, a := range all {
+			if lists := listsIn(resultsOf(t, f, a)); len(lists) > 1 {
+				checked++
+				checkSeparate(t, f.name, lists)
 			}
 		}
 	}
 	if checked == 0 {
 		t.Error("no result has two lists")
 	}
+}
+
+// listsIn are the lists of numbers among the results and in their lists.
+func listsIn(results []any) [][]int {
+	var lists [][]int
+	for _, result := range results {
+		switch r := result.(type) {
+		case []int:
+			lists = append(lists, r)
+		case [][]int:
+			lists = append(lists, r...)
+		}
+	}
+	return lists
 }
 
 // checkSeparate marks each list with its own number: shared memory would keep the last mark only.
