@@ -55,15 +55,15 @@ func boardArguments() []arguments {
 		lists = append(lists, withZeros(lists[7], 9), withZeros(lists[7], 10))
 		for k, list := range lists {
 			for _, i := range []int{1, 2} {
-				all = append(all, arguments{g[0], i, g[1], list, texts[k%len(texts)]})
+				all = append(all, arguments{n: g[0], i: i, j: g[1], list: list, text: texts[k%len(texts)]})
 			}
 			others := []int{0, 3, -1, size - 1, size, math.MaxInt, math.MinInt}
-			all = append(all, arguments{g[0], others[k%len(others)], g[1], list, texts[k%len(texts)]})
+			all = append(all, arguments{n: g[0], i: others[k%len(others)], j: g[1], list: list, text: texts[k%len(texts)]})
 		}
 	}
 	for k, g := range badGrids {
 		for _, list := range [][]int{nil, {1}, make([]int, 31), make([]int, 36)} {
-			all = append(all, arguments{g[0], 1 + k%2, g[1], list, ""})
+			all = append(all, arguments{n: g[0], i: 1 + k%2, j: g[1], list: list})
 		}
 	}
 	return all

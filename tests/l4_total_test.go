@@ -46,18 +46,18 @@ func squareArguments() []arguments {
 		for _, labels := range samples {
 			lists = append(lists, labels[:size-1])
 			for k, door := range oracleSquareDoors(n, labels) {
-				all = append(all, arguments{n, door[k%2], door[1-k%2], labels, ""})
+				all = append(all, arguments{n: n, i: door[k%2], j: door[1-k%2], list: labels})
 			}
 		}
 		numbers := []int{0, 1, -1, n, -n, n + 1, -n - 1, size / 2, size - 1, size, math.MaxInt, math.MinInt}
 		next := chance(n)
 		for _, list := range lists {
-			all = append(all, arguments{n, numbers[next(len(numbers))], numbers[next(len(numbers))], list, ""})
+			all = append(all, arguments{n: n, i: numbers[next(len(numbers))], j: numbers[next(len(numbers))], list: list})
 		}
 	}
 	for _, n := range badReaches {
 		for _, list := range [][]int{nil, {1}, {1, 2, 2, 2, 1, -2, -2, -2, -1}, oppositeSamples(4)[0]} {
-			all = append(all, arguments{n, 0, 1, list, ""}, arguments{n, n, n, list, ""})
+			all = append(all, arguments{n: n, i: 0, j: 1, list: list}, arguments{n: n, i: n, j: n, list: list})
 		}
 	}
 	return all

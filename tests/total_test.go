@@ -15,6 +15,7 @@ import (
 type arguments struct {
 	n, i, j int
 	list    []int
+	rows    [][]int
 	text    string
 }
 
@@ -26,7 +27,7 @@ type totalFunction struct {
 }
 
 func totalFunctions() []totalFunction {
-	return slices.Concat(functionsOfChapter1(), functionsOfChapter2(), functionsOfChapter3(), functionsOfChapter4())
+	return slices.Concat(functionsOfChapter1(), functionsOfChapter2(), functionsOfChapter3(), functionsOfChapter4(), functionsOfChapter5())
 }
 
 func isSide(n int) bool { return n >= 1 && n <= 8 }
@@ -54,7 +55,7 @@ func triple[A, B, C any](x A, y B, z C) []any { return []any{x, y, z} }
 func quadruple[A, B, C, D any](w A, x B, y C, z D) []any { return []any{w, x, y, z} }
 
 func manyArguments() []arguments {
-	return slices.Concat(triangleArguments(), boardArguments(), squareArguments())
+	return slices.Concat(triangleArguments(), boardArguments(), squareArguments(), sharedArguments())
 }
 
 // triangleArguments has each side with its edges, good and bad, and with lists of all kinds.
@@ -77,12 +78,12 @@ func triangleArguments() []arguments {
 			return numbers[int(state>>16)%len(numbers)]
 		}
 		for k := range 500 {
-			all = append(all, arguments{n, next(), next(), lists[k%len(lists)], texts[k%len(texts)]})
+			all = append(all, arguments{n: n, i: next(), j: next(), list: lists[k%len(lists)], text: texts[k%len(texts)]})
 		}
 	}
 	for _, n := range badSides {
 		for _, list := range [][]int{nil, {0, 1, 2}, {n, 0, 0}} {
-			all = append(all, arguments{n, 0, 1, list, ""}, arguments{n, n, n, list, ""})
+			all = append(all, arguments{n: n, i: 0, j: 1, list: list}, arguments{n: n, i: n, j: n, list: list})
 		}
 	}
 	return all
@@ -134,13 +135,60 @@ func spacious(list []int) (short, memory []int) {
 	return memory[:len(list)], memory
 }
 
+// memory is all that lies behind the lists of arguments: the list, what tells where the rows are, and the rows.
+type memory struct {
+	list  []int
+	outer [][]int
+	inner [][]int
+}
+
+// withRoom has labels behind the end of the list and of each row, and one more row behind the last one.
+func withRoom(a arguments) (arguments, memory) {
+	var m memory
+	a.list, m.list = spacious(a.list)
+	for _, row := range a.rows {
+		short, inner := spacious(row)
+		m.outer = append(m.outer, short)
+		m.inner = append(m.inner, inner)
+	}
+	m.outer = append(m.outer, []int{1, 0, 2})
+	if a.rows != nil {
+		a.rows = m.outer[:len(a.rows)]
+	}
+	return a, m
+}
+
+func (m memory) copied() memory {
+	inner := slices.Clone(m.inner)
+	for k, row := range inner {
+		inner[k] = slices.Clone(row)
+	}
+	return memory{slices.Clone(m.list), slices.Clone(m.outer), inner}
+}
+
+func isSameList(a, b []int) bool {
+	return len(a) == len(b) && (len(a) == 0 || &a[0] == &b[0])
+}
+
+func (m memory) equals(other memory) bool {
+	return slices.Equal(m.list, other.list) && slices.EqualFunc(m.outer, other.outer, isSameList) && slices.EqualFunc(m.inner, other.inner, slices.Equal[[]int])
+}
+
+func withoutRoom(a arguments) arguments {
+	a.list = slices.Clip(slices.Clone(a.list))
+	a.rows = slices.Clip(slices.Clone(a.rows))
+	for k, row := range a.rows {
+		a.rows[k] = slices.Clip(slices.Clone(row))
+	}
+	return a
+}
+
 func TestSpareCapacityIsNotRead(t *testing.T) {
 	all := manyArguments()
 	for _, f := range totalFunctions() {
 		for _, a := range all {
-			clipped, wide := a, a
-			clipped.list = slices.Clip(slices.Clone(a.list))
-			wide.list, _ = spacious(a.list)
+			clipped := withoutRoom(a)
+			wide, _ := withRoom(a)
 			if fmt.Sprint(resultsOf(t, f, clipped)...) != fmt.Sprint(resultsOf(t, f, wide)...) {
 				t.Fatalf("%s of %v reads what is behind the end of its argument", f.name, a)
 			}
@@ -152,17 +200,16 @@ func TestArgumentsAreKept(t *testing.T) {
 	all := manyArguments()
 	for _, f := range totalFunctions() {
 		for _, a := range all {
-			list, memory := spacious(a.list)
-			before := slices.Clone(memory)
-			a.list = list
-			results := resultsOf(t, f, a)
-			if !slices.Equal(memory, before) {
+			roomy, memory := withRoom(a)
+			before := memory.copied()
+			results := resultsOf(t, f, roomy)
+			if !memory.equals(before) {
 				t.Fatalf("%s modifies its argument", f.name)
 			}
 			for _, r := range results {
 				overwrite(r)
 			}
-			if !slices.Equal(memory, before) {
+			if !memory.equals(before) {
 				t.Fatalf("%s returns memory of its argument", f.name)
 			}
 		}
