@@ -35,6 +35,20 @@ func meshOf(n int) (mesh, bool) {
 	return mesh{side: n}, n >= 1 && n <= MaxSide
 }
 
+// spotOf checks each number before the sum, which could otherwise overflow and be right by chance.
+func spotOf(list []int, sum int) (spot, bool) {
+	if len(list) != 3 {
+		return spot{}, false
+	}
+	for _, number := range list {
+		if number < 0 || number > sum {
+			return spot{}, false
+		}
+	}
+	p := spot(list)
+	return p, p[0]+p[1]+p[2] == sum
+}
+
 func (p spot) isBeside(q spot) bool {
 	var more, less, same int
 	for k := range p {
@@ -91,16 +105,6 @@ func (m mesh) indexOf(p spot) int {
 	return row*(row+1)/2 + p[2]
 }
 
-// hasSpot checks each number before the sum, which could otherwise overflow and be right by chance.
-func (m mesh) hasSpot(p spot) bool {
-	for _, number := range p {
-		if number < 0 || number > m.side {
-			return false
-		}
-	}
-	return p[0]+p[1]+p[2] == m.side
-}
-
 // cells needs no sorting: of the two cells that begin with the same point, the one with the next point of the row is the first.
 func (m mesh) cells() []trio {
 	cells := make([]trio, 0, m.side*m.side)
@@ -115,6 +119,14 @@ func (m mesh) cells() []trio {
 		}
 	}
 	return cells
+}
+
+func (m mesh) cellAt(number int) (trio, bool) {
+	cells := m.cells()
+	if number < 0 || number >= len(cells) {
+		return trio{}, false
+	}
+	return cells[number], true
 }
 
 // isUp takes 1 from the numbers in the order of the points, as in an up cell the point with more of an earlier number comes first.
@@ -141,10 +153,10 @@ func (m mesh) border() []int {
 	return border
 }
 
-func cellLists(cells []trio) [][]int {
-	lists := make([][]int, len(cells))
-	for k, c := range cells {
-		lists[k] = slices.Clone(c[:])
+func listsOfThree[T ~[3]int](threes []T) [][]int {
+	lists := make([][]int, len(threes))
+	for k, three := range threes {
+		lists[k] = slices.Clone(three[:])
 	}
 	return lists
 }
@@ -238,12 +250,9 @@ func PointAt(n int, i int) ([]int, bool) {
 
 // IndexOfPoint returns the number of the point with three numbers. It fails if there is none.
 func IndexOfPoint(n int, point []int) (int, bool) {
-	m, ok := meshOf(n)
-	if !ok || len(point) != 3 {
-		return 0, false
-	}
-	p := spot{point[0], point[1], point[2]}
-	if !m.hasSpot(p) {
+	m, isMesh := meshOf(n)
+	p, isSpot := spotOf(point, n)
+	if !isMesh || !isSpot {
 		return 0, false
 	}
 	return m.indexOf(p), true
@@ -271,7 +280,7 @@ func CellsOf(n int) ([][]int, bool) {
 	if !ok {
 		return nil, false
 	}
-	return cellLists(m.cells()), true
+	return listsOfThree(m.cells()), true
 }
 
 // CellsWith returns the numbers of all cells that have two neighbours i and j, increasing: one or two.
@@ -295,11 +304,11 @@ func IsUpCell(n int, cell int) (bool, bool) {
 	if !ok {
 		return false, false
 	}
-	cells := m.cells()
-	if cell < 0 || cell >= len(cells) {
+	c, ok := m.cellAt(cell)
+	if !ok {
 		return false, false
 	}
-	return m.isUp(cells[cell]), true
+	return m.isUp(c), true
 }
 
 // BorderOf returns the border.
