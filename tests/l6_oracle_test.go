@@ -87,17 +87,30 @@ func oracleTold(n int, images [][]int, cell int) string {
 
 // oracleShares are what each point of a cell has of the one point there that does not move; nil if there is not one alone.
 func oracleShares(n int, images [][]int, cell int) []*big.Rat {
-	rows := [3][4]*big.Rat{}
-	for k, move := range oracleMoves(n, images, cell) {
-		rows[0][k], rows[1][k], rows[2][k] = big.NewRat(int64(move[0]), 1), big.NewRat(int64(move[1]), 1), big.NewRat(1, 1)
+	moves := oracleMoves(n, images, cell)
+	return solved([][]*big.Rat{
+		fractions(moves[0][0], moves[1][0], moves[2][0], 0),
+		fractions(moves[0][1], moves[1][1], moves[2][1], 0),
+		fractions(1, 1, 1, 1),
+	})
+}
+
+func fractions(numbers ...int) []*big.Rat {
+	var list []*big.Rat
+	for _, number := range numbers {
+		list = append(list, big.NewRat(int64(number), 1))
 	}
-	rows[0][3], rows[1][3], rows[2][3] = new(big.Rat), new(big.Rat), big.NewRat(1, 1)
-	for column := range 3 {
+	return list
+}
+
+// solved has the numbers whose products with those of each row, but for its last one, have this last one as their sum; nil if there are none or several. It changes the rows, which are as many as the numbers.
+func solved(rows [][]*big.Rat) []*big.Rat {
+	for column := range rows {
 		pivot := column
-		for pivot < 3 && rows[pivot][column].Sign() == 0 {
+		for pivot < len(rows) && rows[pivot][column].Sign() == 0 {
 			pivot++
 		}
-		if pivot == 3 {
+		if pivot == len(rows) {
 			return nil
 		}
 		rows[column], rows[pivot] = rows[pivot], rows[column]
@@ -110,11 +123,11 @@ func oracleShares(n int, images [][]int, cell int) []*big.Rat {
 			}
 		}
 	}
-	var shares []*big.Rat
-	for k := range rows {
-		shares = append(shares, new(big.Rat).Quo(rows[k][3], rows[k][k]))
+	var found []*big.Rat
+	for k, row := range rows {
+		found = append(found, new(big.Rat).Quo(row[len(rows)], row[k]))
 	}
-	return shares
+	return found
 }
 
 // oracleWeights are nil for a cell without a fixed point: it has one if all shares are greater than 0.

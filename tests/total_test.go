@@ -13,10 +13,11 @@ import (
 
 // arguments are what any function takes; each one takes some of them.
 type arguments struct {
-	n, i, j int
-	list    []int
-	rows    [][]int
-	text    string
+	n, i, j      int
+	list, second []int
+	rows         [][]int
+	game         impl.Game
+	text         string
 }
 
 // totalFunction has the results of a call, whether it succeeded last, and whether it has to.
@@ -27,7 +28,7 @@ type totalFunction struct {
 }
 
 func totalFunctions() []totalFunction {
-	return slices.Concat(functionsOfChapter1(), functionsOfChapter2(), functionsOfChapter3(), functionsOfChapter4(), functionsOfChapter5(), functionsOfChapter6())
+	return slices.Concat(functionsOfChapter1(), functionsOfChapter2(), functionsOfChapter3(), functionsOfChapter4(), functionsOfChapter5(), functionsOfChapter6(), functionsOfChapter7())
 }
 
 func isSide(n int) bool { return n >= 1 && n <= 8 }
@@ -55,7 +56,7 @@ func triple[A, B, C any](x A, y B, z C) []any { return []any{x, y, z} }
 func quadruple[A, B, C, D any](w A, x B, y C, z D) []any { return []any{w, x, y, z} }
 
 func manyArguments() []arguments {
-	return slices.Concat(triangleArguments(), boardArguments(), squareArguments(), sharedArguments(), mappedArguments())
+	return slices.Concat(triangleArguments(), boardArguments(), squareArguments(), sharedArguments(), mappedArguments(), gameArguments())
 }
 
 // triangleArguments has each side with its edges, good and bad, and with lists of all kinds.
@@ -126,69 +127,88 @@ func TestFunctionsAreTotal(t *testing.T) {
 	}
 }
 
-// spacious is the list with labels behind its end, which nobody may look at.
-func spacious(list []int) (short, memory []int) {
-	memory = append(slices.Clone(list), 1, 0, 2, 1)
-	if list == nil {
-		return nil, memory
-	}
-	return memory[:len(list)], memory
-}
-
-// memory is all that lies behind the lists of arguments: the list, what tells where the rows are, and the rows.
+// memory is all that lies behind the lists of arguments: the numbers of each list and of each row, and for rows what tells where they are.
 type memory struct {
-	list  []int
-	outer [][]int
-	inner [][]int
+	numbers [][]int
+	places  [][][]int
 }
 
-// withRoom has labels behind the end of the list and of each row, and one more row behind the last one.
+// spacious has numbers behind the end of the list, which nobody may look at.
+func (m *memory) spacious(list []int) []int {
+	wide := append(slices.Clone(list), 1, 0, 2, 1)
+	m.numbers = append(m.numbers, wide)
+	if list == nil {
+		return nil
+	}
+	return wide[:len(list)]
+}
+
+// spaciousRows has numbers behind the end of each row, and one more row behind the last one.
+func (m *memory) spaciousRows(rows [][]int) [][]int {
+	var wide [][]int
+	for _, row := range rows {
+		wide = append(wide, m.spacious(row))
+	}
+	wide = append(wide, m.spacious([]int{1, 0, 2}))
+	m.places = append(m.places, wide)
+	if rows == nil {
+		return nil
+	}
+	return wide[:len(rows)]
+}
+
 func withRoom(a arguments) (arguments, memory) {
 	var m memory
-	a.list, m.list = spacious(a.list)
-	for _, row := range a.rows {
-		short, inner := spacious(row)
-		m.outer = append(m.outer, short)
-		m.inner = append(m.inner, inner)
-	}
-	m.outer = append(m.outer, []int{1, 0, 2})
-	if a.rows != nil {
-		a.rows = m.outer[:len(a.rows)]
-	}
+	a.list = m.spacious(a.list)
+	a.second = m.spacious(a.second)
+	a.rows = m.spaciousRows(a.rows)
+	a.game = impl.Game{Rows: m.spaciousRows(a.game.Rows), Columns: m.spaciousRows(a.game.Columns)}
 	return a, m
 }
 
 func (m memory) copied() memory {
-	inner := slices.Clone(m.inner)
-	for k, row := range inner {
-		inner[k] = slices.Clone(row)
+	var other memory
+	for _, numbers := range m.numbers {
+		other.numbers = append(other.numbers, slices.Clone(numbers))
 	}
-	return memory{slices.Clone(m.list), slices.Clone(m.outer), inner}
+	for _, places := range m.places {
+		other.places = append(other.places, slices.Clone(places))
+	}
+	return other
 }
 
 func isSameList(a, b []int) bool {
 	return len(a) == len(b) && (len(a) == 0 || &a[0] == &b[0])
 }
 
+func areSameRows(a, b [][]int) bool { return slices.EqualFunc(a, b, isSameList) }
+
 func (m memory) equals(other memory) bool {
-	return slices.Equal(m.list, other.list) && slices.EqualFunc(m.outer, other.outer, isSameList) && slices.EqualFunc(m.inner, other.inner, slices.Equal[[]int])
+	return slices.EqualFunc(m.numbers, other.numbers, slices.Equal[[]int]) && slices.EqualFunc(m.places, other.places, areSameRows)
+}
+
+func clippedRows(rows [][]int) [][]int {
+	rows = slices.Clip(slices.Clone(rows))
+	for k, row := range rows {
+		rows[k] = slices.Clip(slices.Clone(row))
+	}
+	return rows
 }
 
 func withoutRoom(a arguments) arguments {
 	a.list = slices.Clip(slices.Clone(a.list))
-	a.rows = slices.Clip(slices.Clone(a.rows))
-	for k, row := range a.rows {
-		a.rows[k] = slices.Clip(slices.Clone(row))
-	}
+	a.second = slices.Clip(slices.Clone(a.second))
+	a.rows = clippedRows(a.rows)
+	a.game = impl.Game{Rows: clippedRows(a.game.Rows), Columns: clippedRows(a.game.Columns)}
 	return a
 }
 
 func TestSpareCapacityIsNotRead(t *testing.T) {
-	all := manyArguments()
-	for _, f := range totalFunctions() {
-		for _, a := range all {
-			clipped := withoutRoom(a)
-			wide, _ := withRoom(a)
+	functions := totalFunctions()
+	for _, a := range manyArguments() {
+		clipped := withoutRoom(a)
+		wide, _ := withRoom(a)
+		for _, f := range functions {
 			if fmt.Sprint(resultsOf(t, f, clipped)...) != fmt.Sprint(resultsOf(t, f, wide)...) {
 				t.Fatalf("%s of %v reads what is behind the end of its argument", f.name, a)
 			}
@@ -197,11 +217,11 @@ func TestSpareCapacityIsNotRead(t *testing.T) {
 }
 
 func TestArgumentsAreKept(t *testing.T) {
-	all := manyArguments()
-	for _, f := range totalFunctions() {
-		for _, a := range all {
-			roomy, memory := withRoom(a)
-			before := memory.copied()
+	functions := totalFunctions()
+	for _, a := range manyArguments() {
+		roomy, memory := withRoom(a)
+		before := memory.copied()
+		for _, f := range functions {
 			results := resultsOf(t, f, roomy)
 			if !memory.equals(before) {
 				t.Fatalf("%s modifies its argument", f.name)
@@ -230,6 +250,9 @@ func overwrite(result any) {
 			overwrite(r[k])
 			r[k] = nil
 		}
+	case impl.Game:
+		overwrite(r.Rows)
+		overwrite(r.Columns)
 	}
 }
 
@@ -277,6 +300,8 @@ func listsIn(results []any) [][]int {
 			lists = append(lists, r)
 		case [][]int:
 			lists = append(lists, r...)
+		case impl.Game:
+			lists = slices.Concat(lists, r.Rows, r.Columns)
 		}
 	}
 	return lists
