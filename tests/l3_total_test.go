@@ -39,7 +39,7 @@ func functionsOfChapter3() []totalFunction {
 			func(a arguments) bool { return hasGrid(a) && a.n*a.j <= 9 && isPlayerOf(a.i) }},
 		{"BoardText", func(a arguments) []any { return pair(impl.BoardText(a.n, a.j, a.list)) }, hasBoard},
 		{"ParseBoard", func(a arguments) []any { return quadruple(impl.ParseBoard(a.text)) },
-			func(a arguments) bool { return slices.Contains(goodBoardTexts(), a.text) }},
+			func(a arguments) bool { return isBoardText(a.text) }},
 	}
 }
 

@@ -28,7 +28,7 @@ type totalFunction struct {
 }
 
 func totalFunctions() []totalFunction {
-	return slices.Concat(functionsOfChapter1(), functionsOfChapter2(), functionsOfChapter3(), functionsOfChapter4(), functionsOfChapter5(), functionsOfChapter6(), functionsOfChapter7(), functionsOfChapter8())
+	return slices.Concat(functionsOfChapter1(), functionsOfChapter2(), functionsOfChapter3(), functionsOfChapter4(), functionsOfChapter5(), functionsOfChapter6(), functionsOfChapter7(), functionsOfChapter8(), functionsOfChapter9())
 }
 
 func isSide(n int) bool { return n >= 1 && n <= 8 }
@@ -56,7 +56,7 @@ func triple[A, B, C any](x A, y B, z C) []any { return []any{x, y, z} }
 func quadruple[A, B, C, D any](w A, x B, y C, z D) []any { return []any{w, x, y, z} }
 
 func manyArguments() []arguments {
-	return slices.Concat(triangleArguments(), boardArguments(), squareArguments(), sharedArguments(), mappedArguments(), gameArguments(), kneserArguments())
+	return slices.Concat(triangleArguments(), boardArguments(), squareArguments(), sharedArguments(), mappedArguments(), gameArguments(), kneserArguments(), necklaceArguments())
 }
 
 // triangleArguments has each side with its edges, good and bad, and with lists of all kinds.
