@@ -17,6 +17,7 @@ type arguments struct {
 	list, second []int
 	rows         [][]int
 	game         impl.Game
+	desk         impl.Desk
 	text         string
 }
 
@@ -28,7 +29,7 @@ type totalFunction struct {
 }
 
 func totalFunctions() []totalFunction {
-	return slices.Concat(functionsOfChapter1(), functionsOfChapter2(), functionsOfChapter3(), functionsOfChapter4(), functionsOfChapter5(), functionsOfChapter6(), functionsOfChapter7(), functionsOfChapter8(), functionsOfChapter9())
+	return slices.Concat(functionsOfChapter1(), functionsOfChapter2(), functionsOfChapter3(), functionsOfChapter4(), functionsOfChapter5(), functionsOfChapter6(), functionsOfChapter7(), functionsOfChapter8(), functionsOfChapter9(), functionsOfChapter10())
 }
 
 func isSide(n int) bool { return n >= 1 && n <= 8 }
@@ -56,7 +57,7 @@ func triple[A, B, C any](x A, y B, z C) []any { return []any{x, y, z} }
 func quadruple[A, B, C, D any](w A, x B, y C, z D) []any { return []any{w, x, y, z} }
 
 func manyArguments() []arguments {
-	return slices.Concat(triangleArguments(), boardArguments(), squareArguments(), sharedArguments(), mappedArguments(), gameArguments(), kneserArguments(), necklaceArguments())
+	return slices.Concat(triangleArguments(), boardArguments(), squareArguments(), sharedArguments(), mappedArguments(), gameArguments(), kneserArguments(), necklaceArguments(), consoleArguments())
 }
 
 // triangleArguments has each side with its edges, good and bad, and with lists of all kinds.
@@ -163,6 +164,7 @@ func withRoom(a arguments) (arguments, memory) {
 	a.second = m.spacious(a.second)
 	a.rows = m.spaciousRows(a.rows)
 	a.game = impl.Game{Rows: m.spaciousRows(a.game.Rows), Columns: m.spaciousRows(a.game.Columns)}
+	a.desk.Labels = m.spacious(a.desk.Labels)
 	return a, m
 }
 
@@ -200,6 +202,7 @@ func withoutRoom(a arguments) arguments {
 	a.second = slices.Clip(slices.Clone(a.second))
 	a.rows = clippedRows(a.rows)
 	a.game = impl.Game{Rows: clippedRows(a.game.Rows), Columns: clippedRows(a.game.Columns)}
+	a.desk.Labels = slices.Clip(slices.Clone(a.desk.Labels))
 	return a
 }
 
@@ -250,9 +253,16 @@ func overwrite(result any) {
 			overwrite(r[k])
 			r[k] = nil
 		}
+	case []string:
+		r = r[:cap(r)]
+		for k := range r {
+			r[k] = "overwritten"
+		}
 	case impl.Game:
 		overwrite(r.Rows)
 		overwrite(r.Columns)
+	case impl.Desk:
+		overwrite(r.Labels)
 	}
 }
 
@@ -302,6 +312,8 @@ func listsIn(results []any) [][]int {
 			lists = append(lists, r...)
 		case impl.Game:
 			lists = slices.Concat(lists, r.Rows, r.Columns)
+		case impl.Desk:
+			lists = append(lists, r.Labels)
 		}
 	}
 	return lists
